@@ -2,6 +2,7 @@ package impl
 
 import (
 	"errors"
+	"slices"
 	"strconv"
 	"strings"
 )
@@ -205,20 +206,7 @@ func ReadList(s string) ([]int64, bool) {
 	if s == emptyText {
 		return []int64{}, true
 	}
-	// One part more than a list may have suffices to refuse a text, however long it is.
-	texts := strings.SplitN(s, ",", MaxItems+1)
-	if len(texts) > MaxItems {
-		return nil, false
-	}
-	list := make([]int64, len(texts))
-	for i, text := range texts {
-		n, ok := ReadDecimal(text)
-		if !ok {
-			return nil, false
-		}
-		list[i] = n
-	}
-	return list, true
+	return readParts(s, ",", MaxItems, ReadDecimal)
 }
 
 // CheckOf returns the check number of a text.
@@ -233,7 +221,30 @@ func CheckOf(start int64, s string) (int64, bool) {
 	return check, true
 }
 
+// readParts returns what read returns for each of at most limit parts of a text, which have a mark between them; it fails if read does.
+func readParts[T any](s, mark string, limit int, read func(text string) (T, bool)) ([]T, bool) {
+	// One part more than there may be suffices to refuse a text, however long it is.
+	texts := strings.SplitN(s, mark, limit+1)
+	if len(texts) > limit {
+		return nil, false
+	}
+	parts := make([]T, len(texts))
+	for i, text := range texts {
+		part, ok := read(text)
+		if !ok {
+			return nil, false
+		}
+		parts[i] = part
+	}
+	return parts, true
+}
+
 func isBits(bits int64) bool { return bits == 4 || bits == 8 || bits == 16 }
+
+// areWords reports whether all numbers of a list are words.
+func areWords(bits int64, list []int64) bool {
+	return !slices.ContainsFunc(list, func(x int64) bool { return !IsWord(bits, x) })
+}
 
 func isOp(op int64) bool { return within(op, OpAdd, OpShrS) == nil }
 
